@@ -1,6 +1,9 @@
 package quire
 
-import "duodecimo/api"
+import (
+	"duodecimo/api"
+	"duodecimo/check"
+)
 
 // The parts of a book in which Check finds an error.
 const (
@@ -8,26 +11,6 @@ const (
 	partBook
 	partGatherings
 )
-
-// within reports whether all numbers are from lo to hi.
-func within(lo, hi int, numbers ...int) bool {
-	for _, n := range numbers {
-		if n < lo || n > hi {
-			return false
-		}
-	}
-	return true
-}
-
-// firstError returns the index and the error of the first element with one.
-func firstError[T any](list []T, check func(int, T) api.Errno) (int, api.Errno) {
-	for i, x := range list {
-		if e := check(i, x); e != api.OK {
-			return i, e
-		}
-	}
-	return 0, api.OK
-}
 
 // earlier is what the gatherings in front of one say about it: their signatures, and the last lettered one.
 type earlier struct {
@@ -53,7 +36,7 @@ func (b *earlier) check(_ int, g api.QuGathering) api.Errno {
 	if lettered(g.Sig) {
 		b.last = g.Sig
 	}
-	_, e := firstError(g.Changes, func(i int, c api.QuChange) api.Errno {
+	_, e := check.First(g.Changes, func(i int, c api.QuChange) api.Errno {
 		switch {
 		case deedOf(c) == nil:
 			return api.ErrForm
@@ -69,15 +52,15 @@ func (b *earlier) check(_ int, g api.QuGathering) api.Errno {
 
 // isFolded reports whether a gathering can have so many leaves.
 func isFolded(leaves int) bool {
-	return leaves == 1 || leaves%2 == 0 && within(2, api.MaxQuLeaves, leaves)
+	return leaves == 1 || leaves%2 == 0 && check.Within(2, api.MaxQuLeaves, leaves)
 }
 
 // inRange reports whether At and Many of a change are as its kind and the leaves of its gathering allow.
 func inRange(c api.QuChange, leaves int) bool {
 	if c.Kind == api.QuPlus {
-		return within(0, leaves, c.At) && within(1, api.MaxQuPlus, c.Many)
+		return check.Within(0, leaves, c.At) && check.Within(1, api.MaxQuPlus, c.Many)
 	}
-	return within(1, leaves, c.At) && c.Many == 0
+	return check.Within(1, leaves, c.At) && c.Many == 0
 }
 
 // inOrder reports whether a change may come right behind another one.

@@ -5,6 +5,7 @@ import (
 	"strconv"
 
 	"duodecimo/api"
+	"duodecimo/check"
 )
 
 // volume is a book without an error that is gone through leaf by leaf.
@@ -106,5 +107,5 @@ func (n leafName) possible() bool {
 	if n.number == 0 && n.plus == 0 {
 		return false
 	}
-	return within(0, api.MaxQuLeaves, n.number) && within(0, api.MaxQuPlus, n.plus)
+	return check.Within(0, api.MaxQuLeaves, n.number) && check.Within(0, api.MaxQuPlus, n.plus)
 }

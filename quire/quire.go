@@ -1,11 +1,14 @@
 // Package quire is layer 1: names, signatures, gatherings, collation formulas, leaves and their mates.
 package quire
 
-import "duodecimo/api"
+import (
+	"duodecimo/api"
+	"duodecimo/check"
+)
 
 // Name reports whether a string is a name.
 func Name(s string) bool {
-	if !within(1, api.MaxName, len(s)) {
+	if !check.Within(1, api.MaxName, len(s)) {
 		return false
 	}
 	for i, c := range s {
@@ -20,14 +23,14 @@ func Name(s string) bool {
 
 // Check returns the part, the index in it and the error of a book.
 func Check(b api.QuBook) (part, at int, e api.Errno) {
-	if !within(0, api.MaxQuLeaves, b.Signed) {
+	if !check.Within(0, api.MaxQuLeaves, b.Signed) {
 		return partBook, 0, api.ErrRange
 	}
-	if !within(1, api.MaxQuGatherings, len(b.Gatherings)) {
+	if !check.Within(1, api.MaxQuGatherings, len(b.Gatherings)) {
 		return partBook, 0, api.ErrLong
 	}
 	before := earlier{sigs: map[api.QuSig]bool{}}
-	at, e = firstError(b.Gatherings, before.check)
+	at, e = check.First(b.Gatherings, before.check)
 	if e != api.OK {
 		return partGatherings, at, e
 	}

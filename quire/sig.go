@@ -4,6 +4,7 @@ import (
 	"strconv"
 
 	"duodecimo/api"
+	"duodecimo/check"
 )
 
 // letters are those of the lettered signatures, in their order.
@@ -17,7 +18,7 @@ const (
 
 // isSig reports whether Round and Letter are those of a signature.
 func isSig(s api.QuSig) bool {
-	return within(1, api.MaxQuRounds, s.Round) && within(0, api.QuChi, s.Letter)
+	return check.Within(1, api.MaxQuRounds, s.Round) && check.Within(0, api.QuChi, s.Letter)
 }
 
 // lettered reports whether a signature has a letter of the alphabet.

@@ -1,0 +1,178 @@
+package fold
+
+import (
+	"iter"
+	"slices"
+
+	"duodecimo/api"
+)
+
+// The parts of what is seen in which CheckBook finds an error.
+const (
+	partLeaves = 1
+	partChain  = 2
+	partSizes  = 3
+	partMarks  = 4
+)
+
+// The pieces of evidence: the marks come last.
+const (
+	pieceChain = 0
+	pieceWide  = 1
+	pieceHigh  = 2
+	pieceMarks = 3
+)
+
+// markError returns a function that returns the error of a mark in a gathering of so many leaves.
+func markError(leaves int) func(int, api.FoMark) api.Errno {
+	return func(_ int, m api.FoMark) api.Errno {
+		if m.Leaf < 0 || m.Leaf >= leaves {
+			return api.ErrNone
+		}
+		return api.OK
+	}
+}
+
+// pieces is a set of pieces of evidence, with a bit for each.
+type pieces int
+
+// has reports whether a piece is in the set.
+func (s pieces) has(piece int) bool { return s>>piece&1 == 1 }
+
+// list returns the pieces, ascending.
+func (s pieces) list() []int {
+	var list []int
+	for piece := 0; s>>piece != 0; piece++ {
+		if s.has(piece) {
+			list = append(list, piece)
+		}
+	}
+	return list
+}
+
+// seen is what is seen of a gathering, and the ways of making that have as many leaves.
+type seen struct {
+	api.FoBook
+	ways []way
+}
+
+// openCase returns what is seen with the ways of making, or the error of CheckBook.
+func openCase(p api.FoPress, b api.FoBook) (seen, api.Errno) {
+	if _, _, e := CheckBook(p, b); e != api.OK {
+		return seen{}, e
+	}
+	c := seen{FoBook: b}
+	v := press{p}
+	for m := range v.makes() {
+		if w := v.way(m); len(w.leaves) == b.Leaves {
+			c.ways = append(c.ways, w)
+		}
+	}
+	return c, api.OK
+}
+
+// all returns the set of all pieces.
+func (c seen) all() pieces { return 1<<(pieceMarks+len(c.Marks)) - 1 }
+
+// agreeing yields the ways of making that agree with some pieces.
+func (c seen) agreeing(some pieces) iter.Seq[way] {
+	return func(yield func(way) bool) {
+	ways:
+		for _, w := range c.ways {
+			for piece, isTrue := range c.plain(w) {
+				if some.has(piece) && !isTrue {
+					continue ways
+				}
+			}
+			for sheet := range w.Sheets {
+				if !c.canBeMarked(w, sheet, some) {
+					continue ways
+				}
+			}
+			if !yield(w) {
+				return
+			}
+		}
+	}
+}
+
+// plain returns of each piece that is no mark whether it is true of a way of making.
+func (c seen) plain(w way) [pieceMarks]bool {
+	wide, high := w.sizes()
+	return [pieceMarks]bool{
+		pieceChain: c.Chain == api.FoUnknown || (c.Chain == api.FoUpright) == w.upright(),
+		pieceWide:  meet(wide, c.Wide),
+		pieceHigh:  meet(high, c.High),
+	}
+}
+
+// meet reports whether two spans have a number in common.
+func meet(a, b api.Span) bool { return a.Lo <= b.Hi && b.Lo <= a.Hi }
+
+// canBeMarked reports whether a sheet can have its watermark in one of its halves so that all marks of its leaves among some pieces are true.
+func (c seen) canBeMarked(w way, sheet int, some pieces) bool {
+	allTrue := func(half int) bool {
+		for i, m := range c.Marks {
+			asked := some.has(pieceMarks+i) && w.leaves[m.Leaf].Sheet == sheet
+			if asked && w.marked(m.Leaf, half) != m.Seen {
+				return false
+			}
+		}
+		return true
+	}
+	return allTrue(0) || allTrue(1)
+}
+
+// together returns the leaves that are of the same sheet as one in all ways of making that agree, and those that are in some; and whether there is such a way.
+func (c seen) together(leaf int) (must, may []int, ok bool) {
+	var asked []func(a, b int) bool
+	for w := range c.agreeing(c.all()) {
+		asked = append(asked, w.together)
+	}
+	for other := range c.Leaves {
+		if other == leaf {
+			continue
+		}
+		yes := 0
+		for _, together := range asked {
+			if together(leaf, other) {
+				yes++
+			}
+		}
+		if yes == len(asked) {
+			must = append(must, other)
+		}
+		if yes > 0 {
+			may = append(may, other)
+		}
+	}
+	return must, may, len(asked) > 0
+}
+
+// wrong returns the fewest pieces without which some way of making agrees. There is a way at least if all are wrong.
+func (c seen) wrong() []int {
+	all := c.all()
+	best := all.list()
+	for set := range all {
+		if list := set.list(); ahead(list, best) && c.agrees(all&^set) {
+			best = list
+		}
+	}
+	return best
+}
+
+// agrees reports whether some way of making agrees with some pieces.
+func (c seen) agrees(some pieces) bool {
+	for range c.agreeing(some) {
+		return true
+	}
+	return false
+}
+
+// ahead reports whether a list of pieces has fewer of them than another one, or as many and comes first.
+func ahead(a, b []int) bool {
+	if len(a) != len(b) {
+		return len(a) < len(b)
+	}
+	return slices.Compare(a, b) < 0
+}
