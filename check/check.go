@@ -38,6 +38,14 @@ func First[T any](list []T, errorOf func(int, T) api.Errno) (int, api.Errno) {
 	return 0, api.OK
 }
 
+// List returns 0 and ErrLong if a list has fewer than lo or more than hi elements, otherwise the index and the error of the first element with one, otherwise 0 and OK.
+func List[T any](lo, hi int, list []T, errorOf func(int, T) api.Errno) (int, api.Errno) {
+	if !Within(lo, hi, len(list)) {
+		return 0, api.ErrLong
+	}
+	return First(list, errorOf)
+}
+
 // Again returns a function that reports whether it was given the same value before.
 func Again[K comparable]() func(K) bool {
 	given := map[K]bool{}

@@ -80,6 +80,35 @@ func TestFirst(t *testing.T) {
 	}
 }
 
+// How long a list is comes before its elements, none of which is looked at then.
+func TestList(t *testing.T) {
+	for i, c := range []struct {
+		lo, hi int
+		list   []api.Errno
+		at     int
+		e      api.Errno
+		asked  int
+	}{
+		{0, 2, nil, 0, api.OK, 0},
+		{1, 2, nil, 0, api.ErrLong, 0},
+		{1, 2, []api.Errno{api.ErrArg}, 0, api.ErrArg, 1},
+		{1, 2, []api.Errno{api.OK, api.ErrArg}, 1, api.ErrArg, 2},
+		{1, 2, []api.Errno{api.OK, api.OK}, 0, api.OK, 2},
+		{1, 2, []api.Errno{api.OK, api.ErrArg, api.OK}, 0, api.ErrLong, 0},
+		{3, 3, []api.Errno{api.OK, api.OK, api.ErrForm}, 2, api.ErrForm, 3},
+		{3, 3, []api.Errno{api.ErrForm, api.OK}, 0, api.ErrLong, 0},
+	} {
+		asked := 0
+		at, e := check.List(c.lo, c.hi, c.list, func(_ int, x api.Errno) api.Errno {
+			asked++
+			return x
+		})
+		if at != c.at || e != c.e || asked != c.asked {
+			t.Errorf("%d: List = %d, %d; %d were asked", i, at, e, asked)
+		}
+	}
+}
+
 // A value was there again if the same function was given it before.
 func TestAgain(t *testing.T) {
 	again := check.Again[string]()

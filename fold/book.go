@@ -2,9 +2,9 @@ package fold
 
 import (
 	"iter"
-	"slices"
 
 	"duodecimo/api"
+	"duodecimo/pick"
 )
 
 // The parts of what is seen in which CheckBook finds an error.
@@ -33,23 +33,6 @@ func markError(leaves int) func(int, api.FoMark) api.Errno {
 	}
 }
 
-// pieces is a set of pieces of evidence, with a bit for each.
-type pieces int
-
-// has reports whether a piece is in the set.
-func (s pieces) has(piece int) bool { return s>>piece&1 == 1 }
-
-// list returns the pieces, ascending.
-func (s pieces) list() []int {
-	var list []int
-	for piece := 0; s>>piece != 0; piece++ {
-		if s.has(piece) {
-			list = append(list, piece)
-		}
-	}
-	return list
-}
-
 // seen is what is seen of a gathering, and the ways of making that have as many leaves.
 type seen struct {
 	api.FoBook
@@ -72,15 +55,15 @@ func openCase(p api.FoPress, b api.FoBook) (seen, api.Errno) {
 }
 
 // all returns the set of all pieces.
-func (c seen) all() pieces { return 1<<(pieceMarks+len(c.Marks)) - 1 }
+func (c seen) all() pick.Set { return pick.All(pieceMarks + len(c.Marks)) }
 
 // agreeing yields the ways of making that agree with some pieces.
-func (c seen) agreeing(some pieces) iter.Seq[way] {
+func (c seen) agreeing(some pick.Set) iter.Seq[way] {
 	return func(yield func(way) bool) {
 	ways:
 		for _, w := range c.ways {
 			for piece, isTrue := range c.plain(w) {
-				if some.has(piece) && !isTrue {
+				if some.Has(piece) && !isTrue {
 					continue ways
 				}
 			}
@@ -110,10 +93,10 @@ func (c seen) plain(w way) [pieceMarks]bool {
 func meet(a, b api.Span) bool { return a.Lo <= b.Hi && b.Lo <= a.Hi }
 
 // canBeMarked reports whether a sheet can have its watermark in one of its halves so that all marks of its leaves among some pieces are true.
-func (c seen) canBeMarked(w way, sheet int, some pieces) bool {
+func (c seen) canBeMarked(w way, sheet int, some pick.Set) bool {
 	allTrue := func(half int) bool {
 		for i, m := range c.Marks {
-			asked := some.has(pieceMarks+i) && w.leaves[m.Leaf].Sheet == sheet
+			asked := some.Has(pieceMarks+i) && w.leaves[m.Leaf].Sheet == sheet
 			if asked && w.marked(m.Leaf, half) != m.Seen {
 				return false
 			}
@@ -152,27 +135,19 @@ func (c seen) together(leaf int) (must, may []int, ok bool) {
 // wrong returns the fewest pieces without which some way of making agrees. There is a way at least if all are wrong.
 func (c seen) wrong() []int {
 	all := c.all()
-	best := all.list()
-	for set := range all {
-		if list := set.list(); ahead(list, best) && c.agrees(all&^set) {
-			best = list
+	best := all
+	for some := range all {
+		if some.Ahead(best) && c.agrees(all&^some) {
+			best = some
 		}
 	}
-	return best
+	return best.List()
 }
 
 // agrees reports whether some way of making agrees with some pieces.
-func (c seen) agrees(some pieces) bool {
+func (c seen) agrees(some pick.Set) bool {
 	for range c.agreeing(some) {
 		return true
 	}
 	return false
-}
-
-// ahead reports whether a list of pieces has fewer of them than another one, or as many and comes first.
-func ahead(a, b []int) bool {
-	if len(a) != len(b) {
-		return len(a) < len(b)
-	}
-	return slices.Compare(a, b) < 0
 }
