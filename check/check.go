@@ -13,6 +13,16 @@ func Within(lo, hi int, numbers ...int) bool {
 	return true
 }
 
+// Ascending reports whether each number is above the one before it.
+func Ascending(numbers ...int) bool {
+	for i, n := range numbers {
+		if i > 0 && n <= numbers[i-1] {
+			return false
+		}
+	}
+	return true
+}
+
 // Spans returns ErrRange if an end of some span is not from lo to hi, otherwise ErrArg if the Lo of some span is above its Hi.
 func Spans(lo, hi int, spans ...api.Span) api.Errno {
 	for _, s := range spans {

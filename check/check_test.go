@@ -31,6 +31,28 @@ func TestWithin(t *testing.T) {
 	}
 }
 
+// Numbers that are the same are not ascending, wherever they are.
+func TestAscending(t *testing.T) {
+	for i, c := range []struct {
+		numbers []int
+		want    bool
+	}{
+		{nil, true},
+		{[]int{5}, true},
+		{[]int{-1, 0, 1, 7}, true},
+		{[]int{math.MinInt, math.MaxInt}, true},
+		{[]int{math.MaxInt, math.MinInt}, false},
+		{[]int{2, 2}, false},
+		{[]int{2, 1, 3}, false},
+		{[]int{1, 2, 3, 3}, false},
+		{[]int{1, 3, 2, 4}, false},
+	} {
+		if got := check.Ascending(c.numbers...); got != c.want {
+			t.Errorf("%d: Ascending = %t", i, got)
+		}
+	}
+}
+
 // An end that is out of range comes before a span that is empty, whichever span it is in.
 func TestSpans(t *testing.T) {
 	for i, c := range []struct {

@@ -2,6 +2,7 @@ package fold
 
 import (
 	"iter"
+	"slices"
 
 	"duodecimo/api"
 	"duodecimo/pick"
@@ -112,23 +113,9 @@ func (c seen) together(leaf int) (must, may []int, ok bool) {
 	for w := range c.agreeing(c.all()) {
 		asked = append(asked, w.together)
 	}
-	for other := range c.Leaves {
-		if other == leaf {
-			continue
-		}
-		yes := 0
-		for _, together := range asked {
-			if together(leaf, other) {
-				yes++
-			}
-		}
-		if yes == len(asked) {
-			must = append(must, other)
-		}
-		if yes > 0 {
-			may = append(may, other)
-		}
-	}
+	must, may = pick.Sure(slices.Values(asked), c.Leaves, func(together func(a, b int) bool, other int) bool {
+		return other != leaf && together(leaf, other)
+	})
 	return must, may, len(asked) > 0
 }
 

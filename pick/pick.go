@@ -1,9 +1,10 @@
-// Package pick contains what the layers use to pick the best of several things: small sets, and which of them comes first.
+// Package pick contains what the layers use to go through several things that can be so, and to pick the best of them, or what they have in common: lists, small sets, and which of them comes first.
 package pick
 
 import (
 	"iter"
 	"math/bits"
+	"slices"
 )
 
 // Set is a set of numbers from 0 to 63, with a bit for each.
@@ -55,4 +56,51 @@ func Best[T any](things iter.Seq[T], ahead func(a, b T) bool) (T, bool) {
 		}
 	}
 	return best, found
+}
+
+// Where returns the numbers below many for which something holds, ascending.
+func Where(many int, holds func(int) bool) []int {
+	var list []int
+	for n := range many {
+		if holds(n) {
+			list = append(list, n)
+		}
+	}
+	return list
+}
+
+// Sure returns the numbers below many that all things have, and those that some thing has, both ascending. If there is no thing, all of them have each number.
+func Sure[T any](things iter.Seq[T], many int, has func(T, int) bool) (all, some []int) {
+	asked := 0
+	having := make([]int, many)
+	for x := range things {
+		asked++
+		for n := range many {
+			if has(x, n) {
+				having[n]++
+			}
+		}
+	}
+	all = Where(many, func(n int) bool { return having[n] == asked })
+	some = Where(many, func(n int) bool { return having[n] > 0 })
+	return all, some
+}
+
+// Lists yields, in their order, all lists of so many numbers, each number one of those that can follow the ones ahead of it.
+func Lists(many int, following func(list []int) []int) iter.Seq[[]int] {
+	return func(yield func([]int) bool) {
+		var extend func(list []int) bool
+		extend = func(list []int) bool {
+			if len(list) == many {
+				return yield(slices.Clone(list))
+			}
+			for _, n := range following(list) {
+				if !extend(append(list, n)) {
+					return false
+				}
+			}
+			return true
+		}
+		extend(make([]int, 0, many))
+	}
 }

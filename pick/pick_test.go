@@ -85,3 +85,79 @@ func TestBest(t *testing.T) {
 		}
 	}
 }
+
+// Where goes through the numbers from 0 on, once each.
+func TestWhere(t *testing.T) {
+	for i, c := range []struct {
+		many int
+		want []int
+	}{{0, nil}, {1, nil}, {2, []int{1}}, {8, []int{1, 4, 7}}} {
+		asked := 0
+		list := pick.Where(c.many, func(n int) bool {
+			if n != asked {
+				t.Errorf("%d: %d is asked as %d", i, asked, n)
+			}
+			asked++
+			return n%3 == 1
+		})
+		if !slices.Equal(list, c.want) || asked != c.many {
+			t.Errorf("%d: Where = %v; %d were asked", i, list, asked)
+		}
+	}
+}
+
+// Sure is what all things have, and what some thing has; what no thing has is not among the latter.
+func TestSure(t *testing.T) {
+	for i, c := range []struct {
+		things    [][]int
+		all, some []int
+	}{
+		{nil, []int{0, 1, 2, 3}, nil},
+		{[][]int{{}}, nil, nil},
+		{[][]int{{3, 1}}, []int{1, 3}, []int{1, 3}},
+		{[][]int{{3, 1}, {1, 2}}, []int{1}, []int{1, 2, 3}},
+		{[][]int{{3, 1}, {}, {1, 3, 7}}, nil, []int{1, 3}},
+	} {
+		all, some := pick.Sure(slices.Values(c.things), 4, slices.Contains[[]int])
+		if !slices.Equal(all, c.all) || !slices.Equal(some, c.some) {
+			t.Errorf("%d: Sure = %v, %v", i, all, some)
+		}
+	}
+}
+
+// Lists come in their order, each in memory of its own; a list that nothing can follow is left, and so are all when enough are seen.
+func TestLists(t *testing.T) {
+	below := func(list []int) []int {
+		if n := len(list); n > 0 {
+			return []int{0, 1, 2}[:list[n-1]]
+		}
+		return []int{1, 2, 3}
+	}
+	for i, c := range []struct {
+		many int
+		want [][]int
+	}{
+		{0, [][]int{{}}},
+		{1, [][]int{{1}, {2}, {3}}},
+		{2, [][]int{{1, 0}, {2, 0}, {2, 1}, {3, 0}, {3, 1}, {3, 2}}},
+		{3, [][]int{{2, 1, 0}, {3, 1, 0}, {3, 2, 0}, {3, 2, 1}}},
+		{4, [][]int{{3, 2, 1, 0}}},
+		{5, nil},
+	} {
+		if lists := slices.Collect(pick.Lists(c.many, below)); !slices.EqualFunc(lists, c.want, slices.Equal) {
+			t.Errorf("%d: Lists = %v", i, lists)
+		}
+		for n := range len(c.want) {
+			var seen [][]int
+			for list := range pick.Lists(c.many, below) {
+				seen = append(seen, list)
+				if len(seen) > n {
+					break
+				}
+			}
+			if !slices.EqualFunc(seen, c.want[:n+1], slices.Equal) {
+				t.Errorf("%d: the first lists are %v", i, seen)
+			}
+		}
+	}
+}

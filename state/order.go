@@ -83,25 +83,6 @@ func (o order) addMistakes(list []api.StReading, copy int) []api.StReading {
 	return list
 }
 
-// lists yields, in their order, all lists of so many numbers, each number one of those that can follow the ones ahead of it.
-func lists(many int, following func(list []int) []int) iter.Seq[[]int] {
-	return func(yield func([]int) bool) {
-		var extend func(list []int) bool
-		extend = func(list []int) bool {
-			if len(list) == many {
-				return yield(slices.Clone(list))
-			}
-			for _, n := range following(list) {
-				if !extend(append(list, n)) {
-					return false
-				}
-			}
-			return true
-		}
-		extend(make([]int, 0, many))
-	}
-}
-
 // firstReadings returns what can be the first reading of the next locus.
 func (f forme) firstReadings(list []int) []int {
 	if known := f.Loci[len(list)].First; known != api.StUnknown {
@@ -124,9 +105,9 @@ func (f forme) nextLoci(list []int) []int {
 // orders yields all orders of the forme, in their order.
 func (f forme) orders() iter.Seq[order] {
 	return func(yield func(order) bool) {
-		for first := range lists(len(f.Loci), f.firstReadings) {
+		for first := range pick.Lists(len(f.Loci), f.firstReadings) {
 			states := f.states(first)
-			for loci := range lists(len(f.Loci), f.nextLoci) {
+			for loci := range pick.Lists(len(f.Loci), f.nextLoci) {
 				if !yield(newOrder(api.StOrder{First: first, Loci: loci}, states)) {
 					return
 				}
