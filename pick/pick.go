@@ -58,6 +58,31 @@ func Best[T any](things iter.Seq[T], ahead func(a, b T) bool) (T, bool) {
 	return best, found
 }
 
+// Fewest returns the fewest of the first so many numbers for which something holds, of several sets of them the first one as a list, and whether there are any for which it does. What holds for a set must hold for all sets that contain it, too.
+func Fewest(many int, holds func(Set) bool) (Set, bool) {
+	return Best(smallest(many, holds), Set.Ahead)
+}
+
+// smallest yields the sets of the first so many numbers for which something holds, and without any one of their numbers does not.
+func smallest(many int, holds func(Set) bool) iter.Seq[Set] {
+	return func(yield func(Set) bool) {
+		held := map[Set]bool{} // by the sets that were met
+	sets:
+		for some := range All(many) + 1 {
+			for _, n := range some.List() {
+				if held[some&^One(n)] {
+					held[some] = true
+					continue sets
+				}
+			}
+			held[some] = holds(some)
+			if held[some] && !yield(some) {
+				return
+			}
+		}
+	}
+}
+
 // Where returns the numbers below many for which something holds, ascending.
 func Where(many int, holds func(int) bool) []int {
 	var list []int

@@ -161,3 +161,43 @@ func TestLists(t *testing.T) {
 		}
 	}
 }
+
+// contains reports whether a set has all numbers of another one.
+func contains(s, other pick.Set) bool { return other&^s == 0 }
+
+// Fewest is the first of the shortest lists for which something holds that holds for all sets that contain one of some; for none, if there are none.
+func TestFewest(t *testing.T) {
+	r := rand.New(rand.NewSource(2))
+	for i := range 300 {
+		many := r.Intn(8)
+		var given []pick.Set
+		for range r.Intn(5) {
+			given = append(given, pick.Set(r.Intn(1<<many)))
+		}
+		var asked []pick.Set
+		holds := func(s pick.Set) bool {
+			if slices.Contains(asked, s) || !contains(pick.All(many), s) {
+				t.Errorf("%d: %v is asked", i, s.List())
+			}
+			asked = append(asked, s)
+			return slices.ContainsFunc(given, func(g pick.Set) bool { return contains(s, g) })
+		}
+		got, ok := pick.Fewest(many, holds)
+		var want []int
+		for k, g := range given {
+			if l := g.List(); k == 0 || len(l) < len(want) || len(l) == len(want) && slices.Compare(l, want) < 0 {
+				want = l
+			}
+		}
+		if !slices.Equal(got.List(), want) || ok != (len(given) > 0) {
+			t.Errorf("%d: Fewest = %v, %t, not %v", i, got.List(), ok, want)
+		}
+		for _, s := range asked {
+			for _, g := range given {
+				if s != g && contains(s, g) {
+					t.Errorf("%d: %v is asked, with all of %v", i, s.List(), g.List())
+				}
+			}
+		}
+	}
+}
