@@ -1,4 +1,4 @@
-// Package pick contains what the layers use to go through several things that can be so, and to pick the best of them, or what they have in common: lists, small sets, and which of them comes first.
+// Package pick contains what the layers use to go through several things that can be so, and to pick the best of them, or what they have in common: lists, orders, small sets, and which of them comes first.
 package pick
 
 import (
@@ -128,4 +128,11 @@ func Lists(many int, following func(list []int) []int) iter.Seq[[]int] {
 		}
 		extend(make([]int, 0, many))
 	}
+}
+
+// Orders yields, in their order, all orders of the first so many numbers.
+func Orders(many int) iter.Seq[[]int] {
+	return Lists(many, func(list []int) []int {
+		return Where(many, func(n int) bool { return !slices.Contains(list, n) })
+	})
 }

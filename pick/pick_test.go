@@ -162,6 +162,24 @@ func TestLists(t *testing.T) {
 	}
 }
 
+// Orders come in their order, each number once in each; of no numbers there is one, and of five there are 120.
+func TestOrders(t *testing.T) {
+	for i, want := range [][][]int{{{}}, {{0}}, {{0, 1}, {1, 0}}, {{0, 1, 2}, {0, 2, 1}, {1, 0, 2}, {1, 2, 0}, {2, 0, 1}, {2, 1, 0}}} {
+		if orders := slices.Collect(pick.Orders(i)); !slices.EqualFunc(orders, want, slices.Equal) {
+			t.Errorf("Orders(%d) = %v", i, orders)
+		}
+	}
+	orders := slices.Collect(pick.Orders(5))
+	if len(orders) != 120 || !slices.IsSortedFunc(orders, slices.Compare) || len(slices.CompactFunc(orders, slices.Equal)) != 120 {
+		t.Errorf("Orders(5) = %v", orders)
+	}
+	for _, o := range orders {
+		if slices.Sort(o); !slices.Equal(o, []int{0, 1, 2, 3, 4}) {
+			t.Errorf("%v is in Orders(5), sorted", o)
+		}
+	}
+}
+
 // contains reports whether a set has all numbers of another one.
 func contains(s, other pick.Set) bool { return other&^s == 0 }
 

@@ -91,23 +91,12 @@ func (f forme) firstReadings(list []int) []int {
 	return []int{api.StA, api.StB}
 }
 
-// nextLoci returns the loci that can be corrected behind some other ones.
-func (f forme) nextLoci(list []int) []int {
-	var next []int
-	for locus := range f.Loci {
-		if !slices.Contains(list, locus) {
-			next = append(next, locus)
-		}
-	}
-	return next
-}
-
 // orders yields all orders of the forme, in their order.
 func (f forme) orders() iter.Seq[order] {
 	return func(yield func(order) bool) {
 		for first := range pick.Lists(len(f.Loci), f.firstReadings) {
 			states := f.states(first)
-			for loci := range pick.Lists(len(f.Loci), f.nextLoci) {
+			for loci := range pick.Orders(len(f.Loci)) {
 				if !yield(newOrder(api.StOrder{First: first, Loci: loci}, states)) {
 					return
 				}
