@@ -130,9 +130,12 @@ func Lists(many int, following func(list []int) []int) iter.Seq[[]int] {
 	}
 }
 
-// Orders yields, in their order, all orders of the first so many numbers.
-func Orders(many int) iter.Seq[[]int] {
-	return Lists(many, func(list []int) []int {
+// OrdersOf yields, in their order, all orders of some of the first so many numbers.
+func OrdersOf(some, many int) iter.Seq[[]int] {
+	return Lists(some, func(list []int) []int {
 		return Where(many, func(n int) bool { return !slices.Contains(list, n) })
 	})
 }
+
+// Orders yields, in their order, all orders of the first so many numbers.
+func Orders(many int) iter.Seq[[]int] { return OrdersOf(many, many) }

@@ -180,6 +180,30 @@ func TestOrders(t *testing.T) {
 	}
 }
 
+// Orders of some of the numbers come in their order, each one once, no number twice; of more than there are there is none.
+func TestOrdersOf(t *testing.T) {
+	for i, c := range []struct {
+		some, many int
+		want       [][]int
+	}{
+		{0, 0, [][]int{{}}}, {1, 0, nil}, {0, 3, [][]int{{}}}, {1, 3, [][]int{{0}, {1}, {2}}}, {3, 2, nil},
+		{2, 3, [][]int{{0, 1}, {0, 2}, {1, 0}, {1, 2}, {2, 0}, {2, 1}}},
+	} {
+		if orders := slices.Collect(pick.OrdersOf(c.some, c.many)); !slices.EqualFunc(orders, c.want, slices.Equal) {
+			t.Errorf("%d: OrdersOf = %v", i, orders)
+		}
+	}
+	orders := slices.Collect(pick.OrdersOf(4, 6))
+	if len(orders) != 360 || !slices.IsSortedFunc(orders, slices.Compare) || len(slices.CompactFunc(orders, slices.Equal)) != 360 {
+		t.Errorf("OrdersOf = %v", orders)
+	}
+	for _, o := range orders {
+		if slices.Sort(o); len(slices.Compact(o)) != 4 || o[0] < 0 || o[3] > 5 {
+			t.Errorf("%v is in OrdersOf, sorted", o)
+		}
+	}
+}
+
 // contains reports whether a set has all numbers of another one.
 func contains(s, other pick.Set) bool { return other&^s == 0 }
 
