@@ -38,11 +38,7 @@ func openTold(h api.MaHand, told []int) (v hand, others pick.Set, e api.Errno) {
 	case !check.Ascending(told...):
 		return hand{}, 0, api.ErrArg
 	}
-	others = v.all()
-	for _, leaf := range told {
-		others &^= pick.One(leaf)
-	}
-	return v, others, api.OK
+	return v, v.all() &^ pick.Of(told...), api.OK
 }
 
 // all returns all leaves.

@@ -16,6 +16,15 @@ func All(many int) Set { return 1<<many - 1 }
 // One returns the set of one number.
 func One(n int) Set { return 1 << n }
 
+// Of returns the set of some numbers.
+func Of(numbers ...int) Set {
+	var s Set
+	for _, n := range numbers {
+		s |= One(n)
+	}
+	return s
+}
+
 // Has reports whether a number is in the set.
 func (s Set) Has(n int) bool { return s>>n&1 == 1 }
 

@@ -8,19 +8,10 @@ import (
 	"duodecimo/pick"
 )
 
-// setOf is the set of some numbers.
-func setOf(numbers ...int) pick.Set {
-	var s pick.Set
-	for _, n := range numbers {
-		s |= pick.One(n)
-	}
-	return s
-}
-
 // A set has its numbers, and its list is ascending, up to the greatest number that a set can have.
 func TestSet(t *testing.T) {
 	for i, list := range [][]int{nil, {0}, {5}, {63}, {0, 1, 2}, {3, 62, 63}, {0, 31, 32, 40}} {
-		s := setOf(list...)
+		s := pick.Of(list...)
 		if !slices.Equal(s.List(), list) {
 			t.Errorf("%d: List = %v", i, s.List())
 		}
@@ -31,6 +22,18 @@ func TestSet(t *testing.T) {
 		}
 		if len(list) > 0 && (s.Least() != list[0] || s.Greatest() != list[len(list)-1]) {
 			t.Errorf("%d: from %d to %d", i, s.Least(), s.Greatest())
+		}
+	}
+}
+
+// Of is the set of some numbers, in any order, also if one is there twice.
+func TestOf(t *testing.T) {
+	for i, c := range []struct {
+		numbers []int
+		want    pick.Set
+	}{{nil, 0}, {[]int{0}, 1}, {[]int{63}, 1 << 63}, {[]int{0, 1, 5}, 35}, {[]int{5, 0, 1}, 35}, {[]int{3, 3, 3}, 8}, {[]int{2, 62, 2, 0}, 1<<62 | 5}} {
+		if got := pick.Of(c.numbers...); got != c.want {
+			t.Errorf("%d: Of = %v", i, got.List())
 		}
 	}
 }
@@ -62,7 +65,7 @@ func TestAhead(t *testing.T) {
 	}
 	r := rand.New(rand.NewSource(1))
 	for range 2000 {
-		check(setOf(r.Perm(64)[:3]...), setOf(r.Perm(64)[:3]...))
+		check(pick.Of(r.Perm(64)[:3]...), pick.Of(r.Perm(64)[:3]...))
 	}
 }
 
