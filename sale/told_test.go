@@ -7,7 +7,7 @@ import (
 	"duodecimo/api"
 )
 
-// P12.2 to P12.6: all that is told of each case is so by calling out all prices, with all rings.
+// P12.2 to P12.6: all that is told of each case is so by the prices of each lot written out, with all rings.
 func TestTold(t *testing.T) {
 	t.Parallel()
 	models := inAll(len(cases()), func(i int) told { return modelled(cases()[i]) })
